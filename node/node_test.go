@@ -767,6 +767,22 @@ func TestListsAreLeftAlone(t *testing.T) {
 	}
 }
 
+// Separate: the same, good or not, in memory of its own.
+func TestSeparate(t *testing.T) {
+	for _, s := range []api.Node{{}, roomy(everyState()), roomy(nodeOf(map[int]api.Entry{7: {State: 9, At: list(-1), Values: list(1, 2)}}, 40, 40))} {
+		s.Values[3] = 5
+		keep := whole(s)
+		own := Separate(s)
+		if !sameNode(own, s) {
+			t.Errorf("%+v, want %+v", own, s)
+		}
+		spill(own)
+		if !sameNode(whole(s), keep) {
+			t.Errorf("%+v: changed by what was answered", keep)
+		}
+	}
+}
+
 // What holds everywhere: two ways on from one state don't disturb each other.
 func TestTwoWaysFromOneState(t *testing.T) {
 	s := run(t, "begin", api.Node{}, 0,
